@@ -20,7 +20,7 @@ func (r *reader) decs(where int) []api.Branch {
 	for {
 		switch {
 		case r.pass(";"):
-		case r.declares(where):
+		case r.declares(inFile): // whether it may stand there is asked behind how deep it lies
 			l = append(l, r.dec(where))
 		default:
 			return l
@@ -47,9 +47,10 @@ func (r *reader) declares(where int) bool {
 	return false
 }
 
-// dec reads a declaration, of which declares has said that it may stand there.
+// dec reads a declaration, which has to be one that may stand there.
 func (r *reader) dec(where int) api.Branch {
 	return r.part(func(from int) api.Branch {
+		r.expect(r.declares(where))
 		r.next++
 		switch r.text(from) {
 		case "val":

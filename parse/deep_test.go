@@ -154,13 +154,12 @@ func TestDeepOrWrong(t *testing.T) {
 			}
 			met[brace]++
 			ahead, at := tokens[:first], place(tokens, first)
-			around := whereabouts(ahead)
 			for _, x := range append([]string{""}, alphabet...) {
 				s := strings.Join(append(slices.Clip(ahead), x), " ")
 				want := api.ErrDeep
-				switch n := slices.Index(begins, x); {
+				switch {
 				case brace == "{" || brace == "?" && x != ")":
-				case brace == "[" && 0 <= n && n < len(begins)-around:
+				case brace == "[" && slices.Contains(begins, x): // whether it may stand there or not
 				default:
 					want = api.ErrForm
 				}
@@ -179,25 +178,6 @@ func TestDeepOrWrong(t *testing.T) {
 	if met["{"] < 5 || met["["] < 5 || met["?"] < 5 {
 		t.Fatal(met)
 	}
-}
-
-// whereabouts is how many sorts of declarations may not stand behind these tokens: structures, signatures and functors in a let, the latter two in a structure.
-func whereabouts(tokens []string) int {
-	deep := 0
-	for i := len(tokens) - 1; i >= 0; i-- {
-		switch tokens[i] {
-		case "end":
-			deep++
-		case "local", "sig":
-			deep = max(deep-1, 0)
-		case "let", "struct":
-			if deep == 0 {
-				return map[string]int{"let": 3, "struct": 2}[tokens[i]]
-			}
-			deep--
-		}
-	}
-	return 0
 }
 
 // P7.1, P7.2: the last depth that may be, and the first that may not, told by hand; what does not count may be as long as it likes.
@@ -258,7 +238,15 @@ func TestDeepEdges(t *testing.T) {
 		{"exp", times("fn x => ", n-1) + "fn ", "=>", api.ErrDeep},
 		{"exp", times("(", n-1) + "let ", "val x = 1 in x end", api.ErrDeep},
 		{"exp", times("(", n-1) + "let ", "open", api.ErrDeep},
-		{"exp", times("(", n-1) + "let ", "structure A = A", api.ErrForm},
+		{"exp", times("(", n-1) + "let ", "structure A = A", api.ErrDeep},
+		{"exp", times("(", n-1) + "let ", "signature", api.ErrDeep},
+		{"exp", times("(", n-1) + "let ", "functor", api.ErrDeep},
+		{"exp", times("(", n-2) + "let ", "structure A = A", api.ErrForm},
+		{"exp", times("(", n-2) + "let ", "signature", api.ErrForm},
+		{"exp", times("(", n-2) + "let local ", "structure", api.ErrDeep},
+		{"exp", times("(", n-3) + "let local in ", "functor", api.ErrForm},
+		{"exp", times("(", n-2) + "let local ", "+", api.ErrForm},
+		{"exp", times("(", n-1) + "let ; ", "structure", api.ErrDeep},
 		{"exp", times("(", n-1) + "let ", "+", api.ErrForm},
 		{"exp", times("(", n-1) + "let ", "", api.ErrForm},
 		{"exp", times("(", n-1) + "let in ", "end", api.ErrDeep},
@@ -291,8 +279,12 @@ func TestDeepEdges(t *testing.T) {
 		{"file", times("local ", n), "x", api.ErrForm},
 		{"file", "structure A = " + times("F (", n-1), ")", api.ErrDeep},
 		{"file", times("structure A = struct ", n/2), "structure", api.ErrDeep},
-		{"file", times("structure A = struct ", n/2), "signature", api.ErrForm},
-		{"file", times("structure A = struct ", n/2), "functor", api.ErrForm},
+		{"file", times("structure A = struct ", n/2), "signature", api.ErrDeep},
+		{"file", times("structure A = struct ", n/2), "functor", api.ErrDeep},
+		{"file", times("structure A = struct ", n/2-1), "signature", api.ErrForm},
+		{"file", times("structure A = struct ", n/2-1), "functor", api.ErrForm},
+		{"file", times("structure A = struct ", n/2-1) + "local ", "functor", api.ErrForm},
+		{"file", times("structure A = struct ", n/2-1) + "local local ", "functor", api.ErrDeep},
 		{"file", times("structure A = struct ", n/2), "x", api.ErrForm},
 		{"file", times("structure A = struct ", n/2-1) + "structure A = A : ", "", api.ErrDeep},
 		{"file", times("local ", n-1) + "structure A : ", "S", api.ErrDeep},
